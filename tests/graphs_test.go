@@ -29,14 +29,36 @@ func fullGraph() impl.Graph {
 	return g
 }
 
+// layers has 6 nodes between two ends, in three pairs: 8 shortest paths of equal cost lead from node 0 to node 7.
+func layers() impl.Graph {
+	return impl.Graph{Nodes: 8, Links: []impl.Link{
+		{A: 0, B: 1, Cost: 5}, {A: 0, B: 2, Cost: 5},
+		{A: 1, B: 3, Cost: 5}, {A: 1, B: 4, Cost: 5}, {A: 2, B: 3, Cost: 5}, {A: 2, B: 4, Cost: 5},
+		{A: 3, B: 5, Cost: 5}, {A: 3, B: 6, Cost: 5}, {A: 4, B: 5, Cost: 5}, {A: 4, B: 6, Cost: 5},
+		{A: 5, B: 7, Cost: 5}, {A: 6, B: 7, Cost: 5},
+	}}
+}
+
+// detours has a link 0-3 of the greatest cost, and three detours of the same cost: over 1, over 2, and over 1 and 2.
+func detours() impl.Graph {
+	return impl.Graph{Nodes: 4, Links: []impl.Link{{A: 0, B: 1, Cost: 7}, {A: 0, B: 2, Cost: 8}, {A: 0, B: 3, Cost: 20}, {A: 1, B: 2, Cost: 1}, {A: 1, B: 3, Cost: 13}, {A: 2, B: 3, Cost: 12}}}
+}
+
+// islands has a link in each of three parts. From the ends of one, those of another one are at the distance -1,
+// which added up with a cost must not be taken for a distance.
+func islands() impl.Graph {
+	return impl.Graph{Nodes: 7, Links: []impl.Link{{A: 0, B: 1, Cost: 1}, {A: 2, B: 3, Cost: 3}, {A: 4, B: 5, Cost: 2}}}
+}
+
 // randomGraph returns a valid graph; sparse ones leave nodes without links and parts that do not reach each other.
-func randomGraph(r *rand.Rand) impl.Graph {
+// The smaller the dearest cost, the more shortest paths have the same cost.
+func randomGraph(r *rand.Rand, dearest int) impl.Graph {
 	g := impl.Graph{Nodes: 1 + r.Intn(impl.MaxNodes)}
 	density := r.Float64()
 	for a := range g.Nodes {
 		for b := a + 1; b < g.Nodes; b++ {
 			if r.Float64() < density && len(g.Links) < impl.MaxLinks {
-				g.Links = append(g.Links, impl.Link{A: a, B: b, Cost: 1 + r.Intn(impl.MaxCost)})
+				g.Links = append(g.Links, impl.Link{A: a, B: b, Cost: 1 + r.Intn(dearest)})
 			}
 		}
 	}
@@ -59,10 +81,16 @@ func validGraphs() map[string]impl.Graph {
 		"line":               {Nodes: 8, Links: []impl.Link{{A: 0, B: 7, Cost: 20}, {A: 1, B: 6, Cost: 20}, {A: 1, B: 7, Cost: 20}, {A: 2, B: 5, Cost: 20}, {A: 2, B: 6, Cost: 20}, {A: 3, B: 4, Cost: 20}, {A: 3, B: 5, Cost: 20}}},
 		"square":             square(),
 		"full":               fullGraph(),
+		"layers":             layers(),
+		"detours":            detours(),
+		"islands":            islands(),
 	}
 	r := rand.New(rand.NewSource(1))
 	for i := range 300 {
-		graphs["random "+strconv.Itoa(i)] = randomGraph(r)
+		graphs["random "+strconv.Itoa(i)] = randomGraph(r, impl.MaxCost)
+	}
+	for i := range 300 {
+		graphs["random with equal costs "+strconv.Itoa(i)] = randomGraph(r, 1+i%3)
 	}
 	return graphs
 }
@@ -111,6 +139,17 @@ func forValid(t *testing.T, check func(t *testing.T, g impl.Graph)) {
 	for name, g := range validGraphs() {
 		t.Run(name, func(t *testing.T) { check(t, g) })
 	}
+}
+
+// forPairs runs a check on every two nodes, also equal ones, of every valid graph.
+func forPairs(t *testing.T, check func(t *testing.T, g impl.Graph, from int, to int)) {
+	forValid(t, func(t *testing.T, g impl.Graph) {
+		for from := range g.Nodes {
+			for to := range g.Nodes {
+				check(t, g, from, to)
+			}
+		}
+	})
 }
 
 // forInvalid runs a check on every invalid graph.
@@ -179,6 +218,38 @@ func reachOf(g impl.Graph, n int) []int {
 		}
 	}
 	return list
+}
+
+// leastPaths are all shortest paths between two nodes, ascending: those of all paths
+// without a node that occurs twice whose cost is the least one.
+func leastPaths(g impl.Graph, from int, to int) [][]int {
+	paths := [][]int{}
+	least := leastCosts(g)[from][to]
+	var extend func(path []int, cost int)
+	extend = func(path []int, cost int) {
+		last := path[len(path)-1]
+		if last == to && cost == least {
+			paths = append(paths, slices.Clone(path))
+		}
+		for next := range g.Nodes {
+			link := linkBetween(g, last, next)
+			if link != -1 && !slices.Contains(path, next) && cost+g.Links[link].Cost <= least {
+				extend(append(path, next), cost+g.Links[link].Cost)
+			}
+		}
+	}
+	extend([]int{from}, 0)
+	return paths
+}
+
+// crosses reports whether two nodes follow each other in a path, in either order.
+func crosses(path []int, l impl.Link) bool {
+	for i := 1; i < len(path); i++ {
+		if path[i-1] == l.A && path[i] == l.B || path[i-1] == l.B && path[i] == l.A {
+			return true
+		}
+	}
+	return false
 }
 
 // guarded returns g with spare capacity behind its links, and a function that reports
