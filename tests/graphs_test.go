@@ -50,6 +50,26 @@ func islands() impl.Graph {
 	return impl.Graph{Nodes: 7, Links: []impl.Link{{A: 0, B: 1, Cost: 1}, {A: 2, B: 3, Cost: 3}, {A: 4, B: 5, Cost: 2}}}
 }
 
+// ring has 8 nodes in a circle, and no other links.
+func ring() impl.Graph {
+	return impl.Graph{Nodes: 8, Links: []impl.Link{{A: 0, B: 1, Cost: 1}, {A: 0, B: 7, Cost: 1}, {A: 1, B: 2, Cost: 1}, {A: 2, B: 3, Cost: 1}, {A: 3, B: 4, Cost: 1}, {A: 4, B: 5, Cost: 1}, {A: 5, B: 6, Cost: 1}, {A: 6, B: 7, Cost: 1}}}
+}
+
+// bridge has as many nodes and links as a graph may have: every two of the nodes 0 to 4
+// are linked, every two of 5 to 7, and 4 with 5 by link 10.
+func bridge() impl.Graph {
+	return impl.Graph{Nodes: 8, Links: []impl.Link{
+		{A: 0, B: 1, Cost: 20}, {A: 0, B: 2, Cost: 9}, {A: 0, B: 3, Cost: 9}, {A: 0, B: 4, Cost: 9}, {A: 1, B: 2, Cost: 4},
+		{A: 1, B: 3, Cost: 4}, {A: 1, B: 4, Cost: 4}, {A: 2, B: 3, Cost: 1}, {A: 2, B: 4, Cost: 1}, {A: 3, B: 4, Cost: 1},
+		{A: 4, B: 5, Cost: 7}, {A: 5, B: 6, Cost: 2}, {A: 5, B: 7, Cost: 3}, {A: 6, B: 7, Cost: 1},
+	}}
+}
+
+// chain is a triangle and a square, which a link, a node and another link join, and a node without links.
+func chain() impl.Graph {
+	return impl.Graph{Nodes: 8, Links: []impl.Link{{A: 0, B: 1, Cost: 5}, {A: 0, B: 2, Cost: 5}, {A: 1, B: 2, Cost: 5}, {A: 2, B: 3, Cost: 5}, {A: 3, B: 4, Cost: 5}, {A: 4, B: 5, Cost: 5}, {A: 4, B: 6, Cost: 5}, {A: 5, B: 6, Cost: 5}}}
+}
+
 // randomGraph returns a valid graph; sparse ones leave nodes without links and parts that do not reach each other.
 // The smaller the dearest cost, the more shortest paths have the same cost.
 func randomGraph(r *rand.Rand, dearest int) impl.Graph {
@@ -84,6 +104,9 @@ func validGraphs() map[string]impl.Graph {
 		"layers":             layers(),
 		"detours":            detours(),
 		"islands":            islands(),
+		"ring":               ring(),
+		"bridge":             bridge(),
+		"chain":              chain(),
 	}
 	r := rand.New(rand.NewSource(1))
 	for i := range 300 {
