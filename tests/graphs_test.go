@@ -157,10 +157,14 @@ func invalidGraphs() map[string]impl.Graph {
 	return graphs
 }
 
-// forValid runs a check on every valid graph.
+// forValid runs a check on every valid graph. The checks of different graphs must share nothing that one of
+// them changes: they run at the same time, because there are many, and only after the test itself has returned.
 func forValid(t *testing.T, check func(t *testing.T, g impl.Graph)) {
 	for name, g := range validGraphs() {
-		t.Run(name, func(t *testing.T) { check(t, g) })
+		t.Run(name, func(t *testing.T) {
+			t.Parallel()
+			check(t, g)
+		})
 	}
 }
 
