@@ -35,7 +35,7 @@ func failureOf(g impl.Graph, link int) failure {
 	return f
 }
 
-// safe are the nodes that are reached from a node without the link by every shortest path.
+// safe are the nodes that are reached from a node, and by no shortest path over the link.
 func (f failure) safe(from int) []int {
 	return slices.DeleteFunc(reachOf(f.g, from), func(n int) bool { return f.crossed[from][n] })
 }
